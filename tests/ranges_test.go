@@ -790,69 +790,28 @@ func TestNoTextTwice(t *testing.T) {
 	}
 }
 
-// spare is a copy with room behind it, filled with a span that nobody may touch.
-func spare(r impl.Range) impl.Range {
-	spans := append(slices.Clone(r.Spans), span(-7, -7), span(-7, -7), span(-7, -7))
-	return impl.Range{Spans: spans[:len(r.Spans)]}
-}
-
-func checkUntouched(t *testing.T, r impl.Range, was impl.Range) {
-	t.Helper()
-	behind := r.Spans[:len(r.Spans)+3]
-	if !sameRange(r, was) || behind[len(r.Spans)] != span(-7, -7) || behind[len(r.Spans)+2] != span(-7, -7) {
-		t.Fatalf("%v became %v, with %v behind it", was, r, behind[len(r.Spans):])
-	}
-}
-
-// scribble writes over all memory that a range has, its room behind it among others.
-func scribble(r impl.Range) {
-	all := r.Spans[:cap(r.Spans)]
-	for i := range all {
-		all[i] = span(-9, -9)
-	}
-}
-
 // P1: what comes of ranges shares no memory with them, and they are as they were.
 func TestRangesShareNothing(t *testing.T) {
 	for _, a := range append(edgeRanges(), notRanges()...) {
 		for _, b := range append(edgeRanges()[:14], notRanges()[:4]...) {
-			ra := spare(a)
-			rb := spare(b)
+			ra := handed(a)
+			rb := handed(b)
+			was := wholeText(ra, rb)
 			not, _ := impl.RangeNot(ra)
 			and, _ := impl.RangeAnd(ra, rb)
 			or, _ := impl.RangeOr(ra, rb)
-			wasAnd := copyOfRange(and)
-			wasOr := copyOfRange(or)
 			impl.RangeOk(ra)
 			impl.RangeText(ra)
 			impl.RangeHas(ra, version(1, 2, 3, 0))
-			scribble(not)
-			if !sameRange(and, wasAnd) || !sameRange(or, wasOr) {
-				t.Fatal("two answers share memory")
-			}
-			scribble(and)
-			if !sameRange(or, wasOr) {
-				t.Fatal("two answers share memory")
-			}
-			scribble(or)
-			checkUntouched(t, ra, a)
-			checkUntouched(t, rb, b)
+			checkMemory(t, "a range", was, []any{ra, rb}, []any{not, and, or})
 		}
 	}
 }
 
 // P42 and P48: what is told anew is new.
 func TestRangesAreNew(t *testing.T) {
-	scribble(impl.RangeAll())
-	scribble(impl.RangeFrom(version(1, 2, 3, 0)))
-	scribble(impl.RangeOne(version(1, 2, 3, 0)))
-	if !sameRange(impl.RangeAll(), rangeOf(span(0, 9999999))) {
-		t.Errorf("RangeAll is %v", impl.RangeAll())
-	}
-	if !sameRange(impl.RangeFrom(version(1, 2, 3, 0)), rangeOf(span(102039, 199999))) {
-		t.Errorf("RangeFrom is %v", impl.RangeFrom(version(1, 2, 3, 0)))
-	}
-	if !sameRange(impl.RangeOne(version(1, 2, 3, 0)), rangeOf(span(102039, 102039))) {
-		t.Errorf("RangeOne is %v", impl.RangeOne(version(1, 2, 3, 0)))
+	v := version(1, 2, 3, 0)
+	if shared([]any{impl.RangeAll(), impl.RangeAll(), impl.RangeFrom(v), impl.RangeFrom(v), impl.RangeOne(v), impl.RangeOne(v)}, nil) {
+		t.Error("two ranges share memory")
 	}
 }
