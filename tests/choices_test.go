@@ -318,14 +318,8 @@ func TestPicks(t *testing.T) {
 // P57: of all rows of few names those are picks that are in order.
 func TestPicksOfAllNames(t *testing.T) {
 	for _, names := range rows([]int{-1, 0, 1, 2, 6, 7, 8}, 4) {
-		inOrder := true
-		for i, name := range names {
-			if name < 0 || name > 7 || i > 0 && names[i-1] >= name {
-				inOrder = false
-			}
-		}
-		if impl.PicksOk(picks(names...)) != inOrder {
-			t.Errorf("PicksOk of the names %v is %v", names, !inOrder)
+		if impl.PicksOk(picks(names...)) != inOrder(names) {
+			t.Errorf("PicksOk of the names %v is %v", names, !inOrder(names))
 		}
 	}
 }

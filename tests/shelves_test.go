@@ -59,6 +59,16 @@ func edgeNames() []int {
 	return []int{math.MinInt, -1, 0, 1, 2, 3, 4, 5, 6, 7, 8, math.MaxInt}
 }
 
+// inOrder reports whether names are ones, each after the one before it.
+func inOrder(names []int) bool {
+	for i, name := range names {
+		if name < 0 || name > 7 || i > 0 && names[i-1] >= name {
+			return false
+		}
+	}
+	return true
+}
+
 // rows are all rows of at most so many elements of a list.
 func rows[T any](list []T, most int) [][]T {
 	all := [][]T{nil}
@@ -363,14 +373,8 @@ func TestNeeds(t *testing.T) {
 // P50: of all rows of few names those are needs that are in order.
 func TestNeedsOfAllNames(t *testing.T) {
 	for _, names := range rows([]int{-1, 0, 1, 2, 6, 7, 8}, 4) {
-		inOrder := true
-		for i, name := range names {
-			if name < 0 || name > 7 || i > 0 && names[i-1] >= name {
-				inOrder = false
-			}
-		}
-		if impl.NeedsOk(needsAny(names...)) != inOrder {
-			t.Errorf("NeedsOk of the names %v is %v", names, !inOrder)
+		if impl.NeedsOk(needsAny(names...)) != inOrder(names) {
+			t.Errorf("NeedsOk of the names %v is %v", names, !inOrder(names))
 		}
 	}
 }
