@@ -1227,6 +1227,7 @@ func TestAllRoads(t *testing.T) {
 			refusals++
 			checkNotSolved(t, q)
 			checkNoneTold(t, q.s, q.needs, 50)
+			checkNotRelocked(t, relocked{question: q})
 			checkNotRefuted(t, q)
 			checkNoRun(t, q.s, q.needs, nil)
 			continue
@@ -1250,12 +1251,17 @@ func TestAllRoads(t *testing.T) {
 	}
 }
 
-// checkAllRoads holds that the first one of all choices is the best one, and that there is none just if a proof says so, or would be too long.
+// checkAllRoads holds that the first one of all choices is the best one, and the one that locks nothing, and that there is none just if a proof says so, or would be too long.
 func checkAllRoads(t *testing.T, q question, c []impl.Pick, ok bool) {
 	t.Helper()
 	first := impl.SolveAll(q.s, q.needs, 1)
 	if ok != (len(first) == 1) || ok && !slices.Equal(first[0], c) {
 		t.Fatalf("SolveAll(%v, %v, 1) is %v, and Solve %v, %v", q.s, q.needs, first, c, ok)
+	}
+	if ok {
+		checkRelocked(t, relocked{question: q}, c)
+	} else {
+		checkNotRelocked(t, relocked{question: q})
 	}
 	must := checkRefute(t, q)
 	if ok == must.would {
