@@ -246,8 +246,8 @@ func near(d *dice, e impl.Entry) impl.Entry {
 	return entryOf(with(e.S[:min(len(e.S), 9)], 0, rolledLine(d, len(e.Ins))), e.Ins...)
 }
 
-// rolledKept is what can be kept when a world is built: some of what it asks for, what is like that, and what has nothing to do with it, in any order; of some there is no room for more, or for few.
-func rolledKept(d *dice, w []impl.Target) []impl.Entry {
+// rolledAround is some of what a world asks for, what is like that, and what has nothing to do with it.
+func rolledAround(d *dice, w []impl.Target) []impl.Entry {
 	var list []impl.Entry
 	share := d.roll(11)
 	for _, a := range askedOf(w) {
@@ -261,7 +261,12 @@ func rolledKept(d *dice, w []impl.Target) []impl.Entry {
 	for range d.roll(3) {
 		list = append(list, rolledEntry(d))
 	}
-	list = distinct(list)
+	return distinct(list)
+}
+
+// rolledKept is what can be kept when a world is built, in any order; of some there is no room for more, or for few.
+func rolledKept(d *dice, w []impl.Target) []impl.Entry {
+	list := rolledAround(d, w)
 	if d.roll(2) == 0 {
 		list = append(list, fillers(60-d.roll(7)-len(list))...)
 	}
